@@ -5,6 +5,7 @@ import (
 
 	"wringer/api"
 	"wringer/disk"
+	"wringer/layout"
 	"wringer/num"
 	"wringer/pool"
 )
@@ -31,7 +32,7 @@ func open(d api.Disk, name string) (*reader, api.Errno) {
 // records tells the file's, one by one; in the end what is left is behind the body.
 func (r *reader) records() iter.Seq[[]uint64] {
 	return func(yield func([]uint64) bool) {
-		size, more := bodySize(r.width, 1), r.count
+		size, more := layout.BodySize(r.width, 1), r.count
 		for part := range r.sectors() {
 			for r.left += part; more > 0 && len(r.left) >= size; more-- {
 				// Just one record's bytes, of a width that is right, are never refused.

@@ -1,0 +1,96 @@
+package stream
+
+import (
+	"iter"
+
+	"wringer/api"
+	"wringer/layout"
+	"wringer/num"
+	"wringer/pool"
+	"wringer/recs"
+)
+
+// Reader goes through a file of Count records of one Width, from the first one on.
+type Reader struct {
+	Width  int
+	Count  uint64
+	work   *Work
+	name   string
+	told   uint64 // how many records were
+	sector int    // the one that was read last
+	left   string // what was read, and is in no record that was told
+}
+
+// Open has a reader stand ahead of a file's records.
+func (w *Work) Open(name string) (*Reader, error) {
+	width, count, e := recs.Head(w.Disk, name)
+	if e == api.OK && width == 0 {
+		e = api.ErrCode
+	}
+	if e != api.OK {
+		return nil, At(name, e)
+	}
+	// The head was read past the frames: it counts all the same.
+	w.Reads++
+	return &Reader{Width: width, Count: count, work: w, name: name}, nil
+}
+
+// Each has all records that were not told yet be given to do, one by one.
+func (r *Reader) Each(do func(record []uint64) error) error {
+	for record, err := range r.records() {
+		if err == nil {
+			err = do(record)
+		}
+		if err != nil {
+			return err
+		}
+	}
+	return nil
+}
+
+// records tells all that were not told yet, one by one; an error is the last thing that is told.
+func (r *Reader) records() iter.Seq2[[]uint64, error] {
+	return func(yield func([]uint64, error) bool) {
+		for r.told < r.Count {
+			record, err := r.Next()
+			if !yield(record, err) || err != nil {
+				return
+			}
+		}
+	}
+}
+
+// Next tells the next record: ErrShort, if there is none.
+func (r *Reader) Next() ([]uint64, error) {
+	if r.told == r.Count {
+		return nil, at(r.name, r.sector, api.ErrShort)
+	}
+	size := layout.BodySize(r.Width, 1)
+	for len(r.left) < size {
+		r.sector++
+		s, err := r.work.look(r.name, r.sector)
+		if err != nil {
+			return nil, err
+		}
+		r.left += s
+	}
+	// Just one record's bytes, of a width that is right, are never refused.
+	l, _ := num.Split(r.left[:size], r.Width)
+	r.left = r.left[size:]
+	r.told++
+	return l[0], nil
+}
+
+// look tells a sector's bytes. Its frame is let go of at once, and keeps them as long as it is not taken.
+func (w *Work) look(name string, sector int) (string, error) {
+	p, frame, e := pool.Pin(w.Pool, name, sector)
+	w.Pool = p
+	if e != api.OK {
+		return "", at(name, sector, e)
+	}
+	s, e := pool.Look(w.Pool, frame)
+	if e == api.OK {
+		w.Pool, e = pool.Unpin(w.Pool, frame)
+	}
+	return s, at(name, sector, e)
+}
