@@ -12,9 +12,10 @@ import (
 // batch is how many writes wait till they are synced: the more there are that wait, the longer each one takes.
 const batch = 16
 
-// maker puts a new file's records, one behind the other. It gathers them in the memory of a frame that it leases, and writes them past the others: there each sector would be read ahead of being filled.
+// maker puts a new file's records, one behind the other. It gathers them in the memory of a frame that it leases, and writes them past the others: there each sector would be read ahead of being filled. Each write makes new memory of its disk: this one's has no extent but the new one.
 type maker struct {
 	*Work
+	file   api.Disk
 	name   string
 	width  int
 	count  uint64
@@ -23,32 +24,42 @@ type maker struct {
 	leased []int  // the frame whose memory that is
 }
 
-// Make has a new file of count records, that fill puts. Its head is written when its body is synced: no crash leaves a head without what it tells of.
+// Make has a new file of count records, that fill puts, making no other file. Its head is written when its body is synced: no crash leaves a head without what it tells of.
 func (w *Work) Make(name string, width int, count uint64, fill func(put func(record []uint64) error) error) error {
 	m := &maker{Work: w, name: name, width: width, count: count}
-	err := m.begin()
-	if err == nil {
-		err = fill(m.put)
+	if err := m.begin(); err != nil {
+		return err
 	}
+	err := fill(m.put)
 	if err == nil {
 		err = m.end()
 	}
+	m.settle()
 	return err
 }
 
-// begin has the new file's extent, and a frame for what is put. What waits is synced, so that there is room for what is written.
+// begin has the new file's extent, and a frame for what is put.
 func (m *maker) begin() error {
 	need, e := recs.Need(m.width, m.count)
 	if e == api.OK {
-		m.Disk, e = disk.New(m.Disk, m.name, need)
-	}
-	if e == api.OK {
-		m.Disk, e = disk.Sync(m.Disk)
+		m.all, e = disk.New(m.all, m.name, need)
 	}
 	if e == api.OK {
 		m.Pool, m.leased, e = pool.Lease(m.Pool, 1)
 	}
-	return At(m.name, e)
+	if e != api.OK {
+		return At(m.name, e)
+	}
+	at, _ := place(m.all, m.name)
+	m.file = api.Disk{Size: m.all.Size, Extents: []api.Extent{m.all.Extents[at]}, Fuse: m.all.Fuse}
+	return nil
+}
+
+// settle has the disk of the operation be what it is with the new file as that is now.
+func (m *maker) settle() {
+	at, _ := place(m.all, m.name)
+	m.all.Extents[at] = m.file.Extents[0]
+	m.all.Waits, m.all.Fuse, m.all.Down = m.file.Waits, m.file.Fuse, m.file.Down
 }
 
 // put has a record stand behind those that were put.
@@ -70,7 +81,7 @@ func (m *maker) turn() error {
 	m.sector++
 	err := m.write(m.sector, m.part[:size])
 	m.part = m.part[size:]
-	if err == nil && len(m.Disk.Waits) >= batch {
+	if err == nil && len(m.file.Waits) >= batch {
 		err = m.sync()
 	}
 	return err
@@ -99,10 +110,10 @@ func (m *maker) end() error {
 	return At(m.name, e)
 }
 
-// write has a sector of the new file wait. No frame holds one of these, so that the pool stays right.
+// write has a sector of the new file wait.
 func (m *maker) write(sector int, s string) error {
 	var e api.Errno
-	m.Disk, e = disk.Write(m.Disk, m.name, sector, layout.Sector(s))
+	m.file, e = disk.Write(m.file, m.name, sector, layout.Sector(s))
 	m.Writes++
 	return at(m.name, sector, e)
 }
@@ -110,6 +121,6 @@ func (m *maker) write(sector int, s string) error {
 // sync has all that waits be done.
 func (m *maker) sync() error {
 	var e api.Errno
-	m.Disk, e = disk.Sync(m.Disk)
+	m.file, e = disk.Sync(m.file)
 	return at(m.name, m.sector, e)
 }

@@ -23,17 +23,21 @@ type Reader struct {
 
 // Open has a reader stand ahead of a file's records.
 func (w *Work) Open(name string) (*Reader, error) {
-	width, count, e := recs.Head(w.Disk, name)
+	width, count, e := recs.Head(w.all, name)
 	if e == api.OK && width == 0 {
 		e = api.ErrCode
 	}
 	if e != api.OK {
 		return nil, At(name, e)
 	}
+	w.show(name)
 	// The head was read past the frames: it counts all the same.
 	w.Reads++
 	return &Reader{Width: width, Count: count, work: w, name: name}, nil
 }
+
+// Rewind has the reader stand ahead of the first record again.
+func (r *Reader) Rewind() { r.told, r.sector, r.left = 0, 0, "" }
 
 // Each has all records that were not told yet be given to do, one by one.
 func (r *Reader) Each(do func(record []uint64) error) error {

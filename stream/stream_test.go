@@ -144,6 +144,141 @@ func TestPutWrong(t *testing.T) {
 	}
 }
 
+// A reader may begin again, wherever it stands.
+func TestRewind(t *testing.T) {
+	_, c, e := stream.Do(with(t, 40), api.MinBudget, func(w *stream.Work) error {
+		r, err := w.Open("a")
+		if err != nil {
+			return err
+		}
+		for _, ahead := range []int{0, 1, 7, 39, 40} {
+			for range ahead {
+				if _, err := r.Next(); err != nil {
+					return err
+				}
+			}
+			r.Rewind()
+			got := [][]uint64{}
+			err := r.Each(func(record []uint64) error {
+				got = append(got, record)
+				return nil
+			})
+			if err != nil || !slices.EqualFunc(got, records(40), slices.Equal[[]uint64]) {
+				t.Fatalf("behind %d: %v, %v", ahead, err, got)
+			}
+			r.Rewind()
+		}
+		return nil
+	})
+	if e != api.OK || c.Reads < 36 || c.Writes != 0 {
+		t.Fatalf("error %d, a cost of %+v", e, c)
+	}
+}
+
+// There are as many frames as were leased, beside those that each operation has: no more than the budget.
+func TestLease(t *testing.T) {
+	for _, budget := range []int{api.MinBudget, 100, api.MaxFrames} {
+		for _, l := range []struct{ one, other int }{{0, 0}, {1, 0}, {3, 5}, {0, budget - 4}, {budget - 5, 1}, {budget - 4, 0}} {
+			got, c, e := stream.Do(with(t, 40), budget, func(w *stream.Work) error {
+				if err := w.Lease(l.one); err != nil {
+					return err
+				}
+				r, err := w.Open("a")
+				if err != nil {
+					return err
+				}
+				if err := w.Lease(l.other); err != nil {
+					return err
+				}
+				if _, pins, leased, e := pool.Counts(w.Pool); pins != 0 || leased != l.one+l.other || e != api.OK {
+					t.Errorf("%d frames are pinned, and %d leased: error %d", pins, leased, e)
+				}
+				for _, many := range []int{budget - 3 - l.one - l.other, budget, 1 << 40} {
+					isFault(t, w.Lease(many), "", 0, api.ErrBudget)
+				}
+				return w.Make("b", 2, r.Count, func(put func(record []uint64) error) error { return r.Each(put) })
+			})
+			_, many, f := recs.Head(got, "b")
+			if e != api.OK || f != api.OK || many != 40 || c.Frames != 4+l.one+l.other {
+				t.Fatalf("%d and %d of %d: error %d, and %d; a cost of %+v", l.one, l.other, budget, e, f, c)
+			}
+		}
+	}
+}
+
+// An operation knows what is there, and how much room, as it is at the moment; what waits is synced, be there a new file or not.
+func TestKnown(t *testing.T) {
+	d := with(t, 1)
+	d, _ = disk.Write(d, "a", 1, string(make([]byte, api.SectorSize)))
+	room, _ := disk.Room(d)
+	want, _ := disk.Sync(d)
+	got, _, e := stream.Do(d, api.MinBudget, func(w *stream.Work) error {
+		if !w.IsThere("a") || w.IsThere("b") || w.IsThere("") || w.Room() != room {
+			t.Errorf("ahead: room for %d sectors, not %d", w.Room(), room)
+		}
+		return nil
+	})
+	if e != api.OK || !alike(got, want) {
+		t.Fatalf("nothing done: error %d", e)
+	}
+	_, _, e = stream.Do(d, api.MinBudget, func(w *stream.Work) error {
+		for i, name := range []string{"b", "c", "d"} {
+			err := w.Make(name, 1, 1, func(put func(record []uint64) error) error {
+				if !w.IsThere(name) || w.Room() != room-2*i-2 {
+					t.Errorf("%s: room for %d sectors, of %d", name, w.Room(), room)
+				}
+				return put([]uint64{1})
+			})
+			if err != nil || !w.IsThere(name) || w.Room() != room-2*i-2 {
+				t.Errorf("%s: %v, room for %d sectors, of %d", name, err, w.Room(), room)
+			}
+		}
+		return nil
+	})
+	if e != api.OK {
+		t.Fatalf("three files: error %d", e)
+	}
+}
+
+// Where the power goes in the second file, the first one is whole, and the fuse is what both left of it.
+func TestMakeManyPower(t *testing.T) {
+	make2 := func(fuse int) (api.Disk, api.Cost, api.Errno) {
+		d := with(t, 40)
+		d.Fuse = fuse
+		return stream.Do(d, api.MinBudget, func(w *stream.Work) error {
+			for _, to := range []string{"b", "c"} {
+				r, err := w.Open("a")
+				if err == nil {
+					err = w.Make(to, 2, r.Count, func(put func(record []uint64) error) error { return r.Each(put) })
+				}
+				if err != nil {
+					return err
+				}
+			}
+			return nil
+		})
+	}
+	for fuse := range 20 {
+		got, c, e := make2(fuse)
+		switch {
+		case fuse >= 16:
+			if e != api.OK || got.Fuse != fuse-16 || got.Down || len(got.Waits) > 0 || c.Writes != 16 {
+				t.Fatalf("with power for %d writes: error %d, a fuse of %d, a cost of %+v", fuse, e, got.Fuse, c)
+			}
+		case e != api.ErrPower || !got.Down || got.Fuse != 0 || c.Writes != uint64(fuse+1):
+			t.Fatalf("with power for %d writes: error %d, a fuse of %d, a cost of %+v", fuse, e, got.Fuse, c)
+		}
+		crashed, _ := disk.Crash(got)
+		_, many, e := recs.Head(crashed, "b")
+		if fuse >= 8 && (many != 40 || e != api.OK) || fuse < 8 && e != api.ErrForm {
+			t.Fatalf("with power for %d writes: error %d of the first file, of %d records", fuse, e, many)
+		}
+		if _, _, e := recs.Head(crashed, "c"); fuse < 8 && e != api.ErrNone || fuse >= 8 && fuse < 16 && e != api.ErrForm || fuse >= 16 && e != api.OK {
+			t.Fatalf("with power for %d writes: error %d of the second file", fuse, e)
+		}
+	}
+}
+
 // Any many files are made, and read again, by one operation: each lets go of its frames, and has its head when it is made, not earlier.
 func TestMakeMany(t *testing.T) {
 	got, c, e := stream.Do(with(t, 40), api.MinBudget, func(w *stream.Work) error {
