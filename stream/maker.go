@@ -12,16 +12,18 @@ import (
 // batch is how many writes wait till they are synced: the more there are that wait, the longer each one takes.
 const batch = 16
 
-// maker puts a new file's records, one behind the other. It gathers them in the memory of a frame that it leases, and writes them past the others: there each sector would be read ahead of being filled. Each write makes new memory of its disk: this one's has no extent but the new one.
+// maker puts a new file's records, one behind the other. It gathers them in the memory of a frame that it leases, and writes them past the others: there each sector would be read ahead of being filled. Each write makes new memory of its disk: this one's has the new file's next sectors alone.
 type maker struct {
 	*Work
-	file   api.Disk
 	name   string
 	width  int
 	count  uint64
-	sector int    // the one that was written last
-	part   string // what was put, and is in no sector that was written
-	leased []int  // the frame whose memory that is
+	data   []byte   // all sectors of the new file, but for what waits
+	next   api.Disk // some of them, that may be written to
+	from   int      // the first one of these
+	sector int      // the one that was written last
+	part   string   // what was put, and is in no sector that was written
+	leased []int    // the frame whose memory that is
 }
 
 // Make has a new file of count records, that fill puts, making no other file. Its head is written when its body is synced: no crash leaves a head without what it tells of.
@@ -38,28 +40,57 @@ func (w *Work) Make(name string, width int, count uint64, fill func(put func(rec
 	return err
 }
 
+// May tells why there may be no new file of that name, width and count.
+func (w *Work) May(name string, width int, count uint64) error {
+	_, err := w.with(name, width, count)
+	return err
+}
+
+// with tells the disk with an extent for a new file.
+func (w *Work) with(name string, width int, count uint64) (api.Disk, error) {
+	need, e := recs.Need(width, count)
+	if e != api.OK {
+		return api.Disk{}, At(name, e)
+	}
+	d, e := disk.New(w.all, name, need)
+	return d, At(name, e)
+}
+
 // begin has the new file's extent, and a frame for what is put.
 func (m *maker) begin() error {
-	need, e := recs.Need(m.width, m.count)
-	if e == api.OK {
-		m.all, e = disk.New(m.all, m.name, need)
+	all, err := m.with(m.name, m.width, m.count)
+	if err != nil {
+		return err
 	}
-	if e == api.OK {
-		m.Pool, m.leased, e = pool.Lease(m.Pool, 1)
-	}
+	var e api.Errno
+	m.Pool, m.leased, e = pool.Lease(m.Pool, 1)
 	if e != api.OK {
 		return At(m.name, e)
 	}
+	m.all = all
 	at, _ := place(m.all, m.name)
-	m.file = api.Disk{Size: m.all.Size, Extents: []api.Extent{m.all.Extents[at]}, Fuse: m.all.Fuse}
+	m.data = []byte(m.all.Extents[at].Data)
+	m.next = api.Disk{Size: m.all.Size, Fuse: m.all.Fuse}
+	m.shift(0)
 	return nil
+}
+
+// shift has the sectors from one on be those that may be written to: as many as may wait. From past the last one on there are none, and those ahead stay.
+func (m *maker) shift(from int) {
+	at, end := from*api.SectorSize, min((from+batch)*api.SectorSize, len(m.data))
+	if at < end {
+		m.next.Extents, m.from = []api.Extent{{Name: m.name, Data: string(m.data[at:end])}}, from
+	}
 }
 
 // settle has the disk of the operation be what it is with the new file as that is now.
 func (m *maker) settle() {
 	at, _ := place(m.all, m.name)
-	m.all.Extents[at] = m.file.Extents[0]
-	m.all.Waits, m.all.Fuse, m.all.Down = m.file.Waits, m.file.Fuse, m.file.Down
+	m.all.Extents[at].Data = string(m.data)
+	for i := range m.next.Waits {
+		m.next.Waits[i].Sector += m.from
+	}
+	m.all.Waits, m.all.Fuse, m.all.Down = m.next.Waits, m.next.Fuse, m.next.Down
 }
 
 // put has a record stand behind those that were put.
@@ -81,7 +112,7 @@ func (m *maker) turn() error {
 	m.sector++
 	err := m.write(m.sector, m.part[:size])
 	m.part = m.part[size:]
-	if err == nil && len(m.file.Waits) >= batch {
+	if err == nil && len(m.next.Waits) >= batch {
 		err = m.sync()
 	}
 	return err
@@ -112,8 +143,11 @@ func (m *maker) end() error {
 
 // write has a sector of the new file wait.
 func (m *maker) write(sector int, s string) error {
+	if len(m.next.Waits) == 0 {
+		m.shift(sector)
+	}
 	var e api.Errno
-	m.file, e = disk.Write(m.file, m.name, sector, layout.Sector(s))
+	m.next, e = disk.Write(m.next, m.name, sector-m.from, layout.Sector(s))
 	m.Writes++
 	return at(m.name, sector, e)
 }
@@ -121,6 +155,7 @@ func (m *maker) write(sector int, s string) error {
 // sync has all that waits be done.
 func (m *maker) sync() error {
 	var e api.Errno
-	m.file, e = disk.Sync(m.file)
+	m.next, e = disk.Sync(m.next)
+	copy(m.data[m.from*api.SectorSize:], m.next.Extents[0].Data)
 	return at(m.name, m.sector, e)
 }

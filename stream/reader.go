@@ -2,6 +2,8 @@ package stream
 
 import (
 	"iter"
+	"slices"
+	"strconv"
 
 	"wringer/api"
 	"wringer/layout"
@@ -30,7 +32,6 @@ func (w *Work) Open(name string) (*Reader, error) {
 	if e != api.OK {
 		return nil, At(name, e)
 	}
-	w.show(name)
 	// The head was read past the frames: it counts all the same.
 	w.Reads++
 	return &Reader{Width: width, Count: count, work: w, name: name}, nil
@@ -87,7 +88,7 @@ func (r *Reader) Next() ([]uint64, error) {
 
 // look tells a sector's bytes. Its frame is let go of at once, and keeps them as long as it is not taken.
 func (w *Work) look(name string, sector int) (string, error) {
-	p, frame, e := pool.Pin(w.Pool, name, sector)
+	p, frame, e := pool.Pin(w.Pool, w.show(name, sector), 0)
 	w.Pool = p
 	if e != api.OK {
 		return "", at(name, sector, e)
@@ -97,4 +98,25 @@ func (w *Work) look(name string, sector int) (string, error) {
 		w.Pool, e = pool.Unpin(w.Pool, frame)
 	}
 	return s, at(name, sector, e)
+}
+
+// show has a sector be one of the pool's disk, as an extent of its own, and tells what that is called. Those that no frame holds are there no more.
+func (w *Work) show(name string, sector int) string {
+	file := slices.Index(w.files, name)
+	if file < 0 {
+		file = len(w.files)
+		w.files = append(w.files, name)
+	}
+	one := strconv.Itoa(file) + "." + strconv.Itoa(sector)
+	if _, is := place(w.Disk, one); is {
+		return one
+	}
+	w.Disk.Extents = slices.DeleteFunc(w.Disk.Extents, func(x api.Extent) bool {
+		return !slices.ContainsFunc(w.Frames, func(f api.Frame) bool { return f.Name == x.Name })
+	})
+	from, _ := place(w.all, name)
+	data := w.all.Extents[from].Data[sector*api.SectorSize:][:api.SectorSize]
+	at, _ := place(w.Disk, one)
+	w.Disk.Extents = slices.Insert(w.Disk.Extents, at, api.Extent{Name: one, Data: data})
+	return one
 }

@@ -14,10 +14,11 @@ import (
 // frames is how many an operation has, beside those that it leases for what it gathers: one for what is put, the others for what is read. Files are gone through once: more of them would save nothing, and as it is the disk does not hang on the budget.
 const frames = 4
 
-// Work is an operation at work: what it reads is pinned in its pool, what it gathers, and puts, is leased there. Each step of a pool makes new memory of its disk: this one's has no extents but those that are read.
+// Work is an operation at work: what it reads is pinned in its pool, what it gathers, and puts, is leased there. Each step of a pool makes new memory of its disk: this one's has no sectors but those that are read.
 type Work struct {
 	api.Pool
 	all    api.Disk // the disk of the operation as it is now: all extents, and nothing that waits
+	files  []string // those of which sectors were read
 	budget int
 }
 
@@ -83,14 +84,6 @@ func (w *Work) Room() int {
 	// The disk is right, and where the power went the operation ends.
 	room, _ := disk.Room(w.all)
 	return room
-}
-
-// show has an extent of the disk be one of the pool's, too.
-func (w *Work) show(name string) {
-	from, _ := place(w.all, name)
-	if at, is := place(w.Disk, name); !is {
-		w.Disk.Extents = slices.Insert(w.Disk.Extents, at, w.all.Extents[from])
-	}
 }
 
 // place tells where an extent stands on a disk, or would stand, and whether there is one.

@@ -312,3 +312,217 @@ func TestMakeMany(t *testing.T) {
 		t.Fatalf("a cost of %+v", c)
 	}
 }
+
+// Wherever the power goes, what was synced is in the new file, and what was written since waits, at its place: of a body that is longer than what may wait at a time.
+func TestMakePower(t *testing.T) {
+	for _, many := range []int{0, 1, 96, 102, 103, 300} {
+		whole := with(t, many)
+		full := whole.Extents[0].Data
+		sectors := len(full) / api.SectorSize
+		for fuse := range sectors + 2 {
+			d, _ := disk.Make(200)
+			d.Fuse = fuse
+			got, c, e := stream.Do(d, api.MinBudget, func(w *stream.Work) error {
+				return w.Make("a", 2, uint64(many), func(put func(record []uint64) error) error {
+					for _, record := range records(many) {
+						if err := put(record); err != nil {
+							return err
+						}
+					}
+					return nil
+				})
+			})
+			want := api.Disk{Size: 200, Fuse: max(0, fuse-sectors), Extents: []api.Extent{{Name: "a", Data: full}}}
+			wantE := api.OK
+			if fuse < sectors {
+				wantE, want.Down = api.ErrPower, true
+				done := fuse / 16 * 16
+				if fuse == sectors-1 {
+					done = fuse
+				}
+				data := make([]byte, len(full))
+				copy(data[api.SectorSize:], full[api.SectorSize:][:done*api.SectorSize])
+				want.Extents[0].Data = string(data)
+				for i := done; i <= fuse; i++ {
+					sector := (i + 1) % sectors
+					want.Waits = append(want.Waits, api.Write{Name: "a", Sector: sector, Data: full[sector*api.SectorSize:][:api.SectorSize]})
+				}
+			}
+			if e != wantE || !alike(got, want) || c.Writes != uint64(min(fuse+1, sectors)) {
+				t.Fatalf("%d records, with power for %d writes: error %d, a cost of %+v; %v\nas it should be:\n%v", many, fuse, e, c, got, want)
+			}
+		}
+	}
+}
+
+// Sectors that a frame holds are not read again, whichever file's they are, and under whatever name.
+func TestReads(t *testing.T) {
+	d := with(t, 40)
+	d, _ = recs.Write(d, "1.1", 2, records(6))
+	_, c, e := stream.Do(d, api.MinBudget, func(w *stream.Work) error {
+		for _, name := range []string{"1.1", "a", "1.1"} {
+			r, err := w.Open(name)
+			if err != nil {
+				return err
+			}
+			for i := range 6 {
+				if record, err := r.Next(); err != nil || !slices.Equal(record, records(6)[i]) {
+					t.Errorf("%s: %v, %v", name, record, err)
+				}
+			}
+		}
+		return nil
+	})
+	// Three heads, and a sector of each of two files.
+	if e != api.OK || c.Reads != 5 {
+		t.Fatalf("error %d, a cost of %+v", e, c)
+	}
+}
+
+// May tells the new file's errors, and does nothing.
+func TestMay(t *testing.T) {
+	d := with(t, 40)
+	room, _ := disk.Room(d)
+	got, c, e := stream.Do(d, api.MinBudget, func(w *stream.Work) error {
+		for _, l := range []struct {
+			name  string
+			width int
+			count uint64
+			want  api.Errno
+		}{
+			{"", 2, 1, api.ErrRange}, {"12345678901234567", 2, 1, api.ErrRange}, {"b", 9, 1, api.ErrRange}, {"b", -1, 1, api.ErrRange}, {"b", 1, api.MaxCount + 1, api.ErrRange},
+			{"a", 2, 1, api.ErrTwice}, {"a", 1, api.MaxCount, api.ErrTwice}, {"b", 1, api.MaxCount, api.ErrFull}, {"b", 0, uint64(room * api.SectorSize), api.ErrFull},
+		} {
+			isFault(t, w.May(l.name, l.width, l.count), l.name, 0, l.want)
+		}
+		if err := w.May("b", 0, uint64((room-1)*api.SectorSize)); err != nil || w.IsThere("b") || w.Room() != room {
+			t.Errorf("just as much room: %v, room for %d sectors, of %d", err, w.Room(), room)
+		}
+		return nil
+	})
+	if e != api.OK || !alike(got, d) || c.Writes != 0 {
+		t.Fatalf("error %d, a cost of %+v", e, c)
+	}
+}
+
+// made is an operation that makes a file of another one's records, with so many frames leased beside.
+func made(from, to string, lease int) func(d api.Disk, budget int) (api.Disk, api.Cost, api.Errno) {
+	return func(d api.Disk, budget int) (api.Disk, api.Cost, api.Errno) {
+		return stream.Do(d, budget, func(w *stream.Work) error {
+			r, err := w.Open(from)
+			if err == nil {
+				err = w.Lease(lease)
+			}
+			if err != nil {
+				return err
+			}
+			return w.Make(to, r.Width, r.Count, func(put func(record []uint64) error) error { return r.Each(put) })
+		})
+	}
+}
+
+// Operations one behind the other are one: their costs are added up, of the frames there are the most of one.
+func TestLink(t *testing.T) {
+	d := with(t, 40)
+	got, c, e := stream.Link(d, 100, func(l *stream.Chain) error {
+		if l.Budget != 100 || !alike(l.Disk, d) || l.Cost != (api.Cost{}) {
+			t.Errorf("at the beginning: %+v", l)
+		}
+		for _, err := range []error{l.Then(made("a", "b", 3)), l.Then(made("b", "c", 7)), l.Free("b"), l.Then(made("c", "b", 0)), l.Free(), l.Move("c", "x")} {
+			if err != nil {
+				return err
+			}
+		}
+		return nil
+	})
+	want, _ := recs.Write(d, "b", 2, records(40))
+	want, _ = recs.Write(want, "x", 2, records(40))
+	if e != api.OK || !alike(got, want) || c != (api.Cost{Reads: 24, Writes: 24, Frames: 11}) {
+		t.Fatalf("error %d, a cost of %+v, %v", e, c, got)
+	}
+}
+
+// The first error that is told refuses all: the disk is as it was, whatever was done.
+func TestLinkRefused(t *testing.T) {
+	for what, l := range map[string]struct {
+		do   func(l *stream.Chain) error
+		want api.Errno
+	}{
+		"a budget that is too small": {func(l *stream.Chain) error { return l.Then(made("a", "c", 97)) }, api.ErrBudget},
+		"a file that is there":       {func(l *stream.Chain) error { return l.Then(made("a", "b", 0)) }, api.ErrTwice},
+		"no file":                    {func(l *stream.Chain) error { return l.Free("none") }, api.ErrNone},
+		"no name":                    {func(l *stream.Chain) error { return l.Move("b", "") }, api.ErrRange},
+		"another error":              {func(*stream.Chain) error { return stream.At("a", api.ErrState) }, api.ErrState},
+	} {
+		d := with(t, 40)
+		d, _ = disk.Write(d, "a", 1, string(make([]byte, api.SectorSize)))
+		got, c, e := stream.Link(d, 100, func(c *stream.Chain) error {
+			if err := c.Then(made("a", "b", 0)); err != nil {
+				return err
+			}
+			return l.do(c)
+		})
+		if e != l.want || c != (api.Cost{}) || !alike(got, d) {
+			t.Errorf("%s: error %d, a cost of %+v, %v", what, e, c, got)
+		}
+	}
+	got, c, e := stream.Link(api.Disk{Size: -1}, 100, func(l *stream.Chain) error { return l.Then(made("a", "b", 0)) })
+	if e != api.ErrForm || c != (api.Cost{}) || !alike(got, api.Disk{}) {
+		t.Errorf("a disk that is not right: error %d, a cost of %+v, %v", e, c, got)
+	}
+}
+
+// Where the power goes, the disk is as it is then, and the cost that of all so far.
+func TestLinkPower(t *testing.T) {
+	for fuse := range 20 {
+		d := with(t, 40)
+		d.Fuse = fuse
+		steps := 0
+		got, c, e := stream.Link(d, 100, func(l *stream.Chain) error {
+			for _, to := range []string{"b", "c"} {
+				if err := l.Then(made("a", to, 0)); err != nil {
+					return err
+				}
+				steps++
+			}
+			return nil
+		})
+		want, wantE := fuse+1, api.ErrPower
+		if fuse >= 16 {
+			want, wantE = 16, api.OK
+		}
+		if e != wantE || steps != min(2, fuse/8) || c.Writes != uint64(want) || got.Down != (e == api.ErrPower) {
+			t.Fatalf("with power for %d writes: error %d, %d steps, a cost of %+v", fuse, e, steps, c)
+		}
+	}
+}
+
+// Nobody's name begins as those of files on the way do.
+func TestSpare(t *testing.T) {
+	d, _ := disk.Make(api.MaxSectors)
+	seen := []string{}
+	for i := range 2000 {
+		s := stream.Spare(d)
+		if s[0] != '~' || len(s) > 6 || slices.ContainsFunc(seen, func(one string) bool { return one == s }) {
+			t.Fatalf("behind %d names: %q", i, s)
+		}
+		seen = append(seen, s)
+		// A name may be just that, or longer, and stand anywhere among others.
+		d.Extents = append(d.Extents, api.Extent{Name: s + string(make([]byte, i%11)), Data: string(make([]byte, api.SectorSize))})
+	}
+	if e := disk.Check(d); e != api.OK {
+		t.Fatalf("error %d", e)
+	}
+	none := api.Disk{}
+	first := stream.Spare(none)
+	for _, others := range [][]string{{first}, {first + "x"}, {"", "x", first + "0000000000"}} {
+		if s := stream.Spare(none, others...); s == first || s[0] != '~' {
+			t.Errorf("of %q: %q", others, s)
+		}
+	}
+	for _, others := range [][]string{nil, {""}, {"~"}, {first[:5]}, {"x" + first}} {
+		if s := stream.Spare(none, others...); s != first {
+			t.Errorf("of %q: %q", others, s)
+		}
+	}
+}

@@ -1,0 +1,50 @@
+package stream
+
+import (
+	"errors"
+
+	"wringer/api"
+	"wringer/disk"
+)
+
+// Chain is an operation at work that is made of others, one behind the other, each of which has its budget: the disk as it is now, and what they cost so far.
+type Chain struct {
+	api.Disk
+	api.Cost
+	Budget int
+}
+
+// Link has an operation of a disk be done that is made of others, and tells the disk that comes of it, and their cost together. If it is refused, the disk is as it was, whatever was done.
+func Link(d api.Disk, budget int, do func(c *Chain) error) (api.Disk, api.Cost, api.Errno) {
+	c := &Chain{Disk: d, Budget: budget}
+	err := do(c)
+	if err != nil && !errors.Is(err, api.ErrPower) {
+		return refuse(d, number(err))
+	}
+	return c.Disk, c.Cost, number(err)
+}
+
+// Then has one more operation be done, of the disk as it is now.
+func (c *Chain) Then(do func(d api.Disk, budget int) (api.Disk, api.Cost, api.Errno)) error {
+	d, cost, e := do(c.Disk, c.Budget)
+	c.Disk = d
+	c.Reads += cost.Reads
+	c.Writes += cost.Writes
+	// No two of them have their frames at one time.
+	c.Frames = max(c.Frames, cost.Frames)
+	return At("", e)
+}
+
+// Free has files on the way be no more.
+func (c *Chain) Free(names ...string) error {
+	var e api.Errno
+	c.Disk, e = disk.Free(c.Disk, names...)
+	return At("", e)
+}
+
+// Move has a file on the way be called otherwise.
+func (c *Chain) Move(from, to string) error {
+	var e api.Errno
+	c.Disk, e = disk.Move(c.Disk, from, to)
+	return At(from, e)
+}
