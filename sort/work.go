@@ -6,7 +6,7 @@ import (
 	"wringer/api"
 	"wringer/flow"
 	"wringer/merge"
-	"wringer/recs"
+	"wringer/room"
 	"wringer/runs"
 	"wringer/stream"
 )
@@ -27,31 +27,11 @@ func (w *work) ask(d api.Disk, budget int) (api.Disk, api.Cost, api.Errno) {
 		if err == nil {
 			err = s.May(w.to, file.Width, file.Count)
 		}
-		if err == nil && s.Room() < room(budget, file.Width, file.Count) {
+		if err == nil && s.Room() < room.OfSort(budget, file.Width, file.Count) {
 			err = stream.At(w.to, api.ErrFull)
 		}
 		return err
 	})
-}
-
-// room tells how many sectors a sort needs: those of all runs, and of a file of all their records. Files that are merged have no fewer sectors than the one that they become.
-func room(budget, width int, count uint64) int {
-	// A budget, and a file's width and count, that were asked for are never refused.
-	size, _ := runs.Size(budget, width)
-	many := sectors(width, count)
-	if count <= uint64(size) {
-		return many
-	}
-	for ; count > uint64(size); count -= uint64(size) {
-		many += sectors(width, uint64(size))
-	}
-	return many + sectors(width, count)
-}
-
-// sectors tells how many sectors a file has.
-func sectors(width int, count uint64) int {
-	many, _ := recs.Need(width, count)
-	return many
 }
 
 // cut makes runs of the file that is to be sorted.
