@@ -1,8 +1,6 @@
 package names
 
 import (
-	"strconv"
-
 	"wringer/api"
 	"wringer/flow"
 	"wringer/room"
@@ -13,9 +11,6 @@ const (
 	tripleWidth = 4 // numbers of a record that has a triple, and a sample's number behind it
 	nameWidth   = 2 // numbers of a record that has a sample's number, and its name behind it
 )
-
-// maker is an operation that has a new file of another one.
-type maker func(d api.Disk, budget int, from, to string) (api.Disk, api.Cost, api.Errno)
 
 // work is a reduction at work: an operation that is made of others.
 type work struct {
@@ -32,8 +27,8 @@ func (w *work) ask(d api.Disk, budget int) (api.Disk, api.Cost, api.Errno) {
 		if err == nil {
 			err = s.May(w.to, 1, l.samples)
 		}
-		if err == nil && s.Room() < need(budget, l.samples) {
-			err = stream.At(w.to, api.ErrFull)
+		if err == nil {
+			err = s.Needs(w.to, need(budget, l.samples))
 		}
 		return err
 	})
@@ -42,28 +37,6 @@ func (w *work) ask(d api.Disk, budget int) (api.Disk, api.Cost, api.Errno) {
 // need tells how many sectors are needed for so many samples: those of the triples' file, and of its sort. Later files have fewer numbers to a record, and need no more.
 func need(budget int, samples uint64) int {
 	return room.OfFile(tripleWidth, samples) + room.OfSort(budget, tripleWidth, samples)
-}
-
-// through has each of some makers have a file of the one ahead, the first one of the list's, the last one the new file. Those on the way are no more when they were gone through.
-func (w *work) through(makers ...maker) error {
-	from, base := w.from, stream.Spare(w.Disk, w.to)
-	for i, one := range makers {
-		to := base + strconv.Itoa(i)
-		if i == len(makers)-1 {
-			to = w.to
-		}
-		err := w.Then(func(d api.Disk, budget int) (api.Disk, api.Cost, api.Errno) {
-			return one(d, budget, from, to)
-		})
-		if err == nil && i > 0 {
-			err = w.Free(from)
-		}
-		if err != nil {
-			return err
-		}
-		from = to
-	}
-	return nil
 }
 
 // name has a new file of samples' numbers and names, of a file of triples in order.

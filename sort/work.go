@@ -27,8 +27,8 @@ func (w *work) ask(d api.Disk, budget int) (api.Disk, api.Cost, api.Errno) {
 		if err == nil {
 			err = s.May(w.to, file.Width, file.Count)
 		}
-		if err == nil && s.Room() < room.OfSort(budget, file.Width, file.Count) {
-			err = stream.At(w.to, api.ErrFull)
+		if err == nil {
+			err = s.Needs(w.to, room.OfSort(budget, file.Width, file.Count))
 		}
 		return err
 	})

@@ -2,6 +2,7 @@ package stream
 
 import (
 	"errors"
+	"strconv"
 
 	"wringer/api"
 	"wringer/disk"
@@ -13,6 +14,9 @@ type Chain struct {
 	api.Cost
 	Budget int
 }
+
+// Maker is an operation that has a new file of another one.
+type Maker func(d api.Disk, budget int, from, to string) (api.Disk, api.Cost, api.Errno)
 
 // Link has an operation of a disk be done that is made of others, and tells the disk that comes of it, and their cost together. If it is refused, the disk is as it was, whatever was done.
 func Link(d api.Disk, budget int, do func(c *Chain) error) (api.Disk, api.Cost, api.Errno) {
@@ -33,6 +37,37 @@ func (c *Chain) Then(do func(d api.Disk, budget int) (api.Disk, api.Cost, api.Er
 	// No two of them have their frames at one time.
 	c.Frames = max(c.Frames, cost.Frames)
 	return At("", e)
+}
+
+// Spares has a function that tells names for files on the way, each time another one: none is there now, nor one of the others that are told.
+func (c *Chain) Spares(others ...string) func() string {
+	base, told := Spare(c.Disk, others...), -1
+	return func() string {
+		told++
+		return base + strconv.Itoa(told)
+	}
+}
+
+// Through has each of some makers have a file of the one ahead, the first one of from, the last one called to. Those on the way are no more when they were gone through.
+func (c *Chain) Through(from, to string, makers ...Maker) error {
+	spare, source := c.Spares(to), from
+	for i, one := range makers {
+		next := to
+		if i < len(makers)-1 {
+			next = spare()
+		}
+		err := c.Then(func(d api.Disk, budget int) (api.Disk, api.Cost, api.Errno) {
+			return one(d, budget, source, next)
+		})
+		if err == nil && i > 0 {
+			err = c.Free(source)
+		}
+		if err != nil {
+			return err
+		}
+		source = next
+	}
+	return nil
 }
 
 // Free has files on the way be no more.

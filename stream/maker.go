@@ -1,6 +1,8 @@
 package stream
 
 import (
+	"math"
+
 	"wringer/api"
 	"wringer/disk"
 	"wringer/layout"
@@ -26,7 +28,7 @@ type maker struct {
 	leased []int    // the frame whose memory that is
 }
 
-// Make has a new file of count records, that fill puts, making no other file. Its head is written when its body is synced: no crash leaves a head without what it tells of.
+// Make has a new file of count records, that fill puts, making no other file; of width 0 it is a text's, and each record a byte. Its head is written when its body is synced: no crash leaves a head without what it tells of.
 func (w *Work) Make(name string, width int, count uint64, fill func(put func(record []uint64) error) error) error {
 	m := &maker{Work: w, name: name, width: width, count: count}
 	if err := m.begin(); err != nil {
@@ -95,7 +97,7 @@ func (m *maker) settle() {
 
 // put has a record stand behind those that were put.
 func (m *maker) put(record []uint64) error {
-	s, e := num.Record(record...)
+	s, e := join(record, m.width)
 	if e != api.OK {
 		return at(m.name, m.sector, e)
 	}
@@ -104,6 +106,17 @@ func (m *maker) put(record []uint64) error {
 		return nil
 	}
 	return m.turn()
+}
+
+// join tells a record's bytes.
+func join(record []uint64, width int) (string, api.Errno) {
+	if width > 0 {
+		return num.Record(record...)
+	}
+	if len(record) != 1 || record[0] > math.MaxUint8 {
+		return "", api.ErrRange
+	}
+	return string([]byte{byte(record[0])}), api.OK
 }
 
 // turn writes what was put, as much of it as a sector has, to the next one.

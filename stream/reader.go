@@ -12,7 +12,7 @@ import (
 	"wringer/recs"
 )
 
-// Reader goes through a file of Count records of one Width, from the first one on.
+// Reader goes through a file of Count records of one Width, from the first one on. Of a text's file, which has width 0, each byte is a record of one number.
 type Reader struct {
 	Width  int
 	Count  uint64
@@ -25,8 +25,18 @@ type Reader struct {
 
 // Open has a reader stand ahead of a file's records.
 func (w *Work) Open(name string) (*Reader, error) {
+	return w.open(name, func(width int) bool { return width > 0 })
+}
+
+// OpenText has a reader stand ahead of a text's bytes.
+func (w *Work) OpenText(name string) (*Reader, error) {
+	return w.open(name, func(width int) bool { return width == 0 })
+}
+
+// open has a reader stand ahead of a file, if its width is right.
+func (w *Work) open(name string, isRight func(width int) bool) (*Reader, error) {
 	width, count, e := recs.Head(w.all, name)
-	if e == api.OK && width == 0 {
+	if e == api.OK && !isRight(width) {
 		e = api.ErrCode
 	}
 	if e != api.OK {
@@ -79,11 +89,20 @@ func (r *Reader) Next() ([]uint64, error) {
 		}
 		r.left += s
 	}
-	// Just one record's bytes, of a width that is right, are never refused.
-	l, _ := num.Split(r.left[:size], r.Width)
+	record := split(r.left[:size], r.Width)
 	r.left = r.left[size:]
 	r.told++
-	return l[0], nil
+	return record, nil
+}
+
+// split tells the numbers of just one record's bytes.
+func split(s string, width int) []uint64 {
+	if width == 0 {
+		return []uint64{uint64(s[0])}
+	}
+	// Of a width that is right they are never refused.
+	l, _ := num.Split(s, width)
+	return l[0]
 }
 
 // look tells a sector's bytes. Its frame is let go of at once, and keeps them as long as it is not taken.

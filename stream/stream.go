@@ -86,6 +86,14 @@ func (w *Work) Room() int {
 	return room
 }
 
+// Needs tells an error, if there is no room for so many sectors, which are needed for a new file of that name, or on the way to it.
+func (w *Work) Needs(name string, sectors int) error {
+	if w.Room() < sectors {
+		return At(name, api.ErrFull)
+	}
+	return nil
+}
+
 // place tells where an extent stands on a disk, or would stand, and whether there is one.
 func place(d api.Disk, name string) (int, bool) {
 	return slices.BinarySearchFunc(d.Extents, name, func(x api.Extent, sought string) int {

@@ -7,6 +7,7 @@ import (
 
 	"wringer/api"
 	"wringer/disk"
+	"wringer/num"
 	"wringer/pool"
 	"wringer/recs"
 	"wringer/stream"
@@ -355,6 +356,109 @@ func TestMakePower(t *testing.T) {
 	}
 }
 
+// A text's bytes are read, and put, one by one, each a record of one number; a file of the other kind is refused.
+func TestText(t *testing.T) {
+	d := with(t, 40)
+	text := "\x00\xff and 125 bytes more: " + string(make([]byte, 100))
+	d, _ = recs.WriteText(d, "t", text)
+	got, c, e := stream.Do(d, api.MinBudget, func(w *stream.Work) error {
+		_, err := w.OpenText("a")
+		isFault(t, err, "a", 0, api.ErrCode)
+		_, err = w.OpenText("none")
+		isFault(t, err, "none", 0, api.ErrNone)
+		_, err = w.Open("t")
+		isFault(t, err, "t", 0, api.ErrCode)
+		r, err := w.OpenText("t")
+		if err != nil || r.Width != 0 || r.Count != uint64(len(text)) {
+			t.Fatalf("OpenText: %v, %+v", err, r)
+		}
+		return w.Make("u", 0, r.Count, func(put func(record []uint64) error) error {
+			place := 0
+			return r.Each(func(record []uint64) error {
+				if len(record) != 1 || record[0] != uint64(text[place]) {
+					t.Fatalf("at %d: %v", place, record)
+				}
+				place++
+				return put(record)
+			})
+		})
+	})
+	want, _ := recs.WriteText(d, "u", text)
+	if e != api.OK || !alike(got, want) || c != (api.Cost{Reads: 3, Writes: 3, Frames: 4}) {
+		t.Fatalf("error %d, a cost of %+v, %v", e, c, got)
+	}
+	for _, record := range [][]uint64{nil, {256}, {api.MaxNum}, {1, 2}} {
+		got, _, e := stream.Do(d, api.MinBudget, func(w *stream.Work) error {
+			return w.Make("u", 0, 1, func(put func(record []uint64) error) error {
+				err := put(record)
+				isFault(t, err, "u", 0, api.ErrRange)
+				return err
+			})
+		})
+		if e != api.ErrRange || !alike(got, d) {
+			t.Fatalf("%v: error %d", record, e)
+		}
+	}
+}
+
+// Numbers are each from 0 to below as many as there are, once, or they are not, however many there are bits for at a time.
+func TestOnce(t *testing.T) {
+	once := func(d api.Disk, budget int) (api.Cost, api.Errno) {
+		_, c, e := stream.Do(d, budget, func(w *stream.Work) error {
+			r, err := w.Open("a")
+			if err == nil {
+				_, err = r.Next()
+			}
+			if err != nil && !errors.Is(err, api.ErrShort) {
+				return err
+			}
+			return r.Once()
+		})
+		return c, e
+	}
+	for _, many := range []int{0, 1, 2, 100, 8191, 8192, 8193, 20000} {
+		l := [][]uint64{}
+		for i := range uint64(many) {
+			l = append(l, []uint64{(i + 7) % uint64(many), i})
+		}
+		d, _ := disk.Make(4000)
+		d, _ = recs.Write(d, "a", 2, l)
+		for _, budget := range []int{api.MinBudget, api.MaxFrames} {
+			if c, e := once(d, budget); e != api.OK || c.Writes != 0 || c.Frames > budget {
+				t.Fatalf("%d numbers, under %d: error %d, a cost of %+v", many, budget, e, c)
+			}
+		}
+		for _, at := range []int{0, 1, many / 2, many - 1} {
+			for _, number := range []uint64{0, uint64(many) / 2, uint64(many) - 1, uint64(many), 8192, api.MaxNum - 1} {
+				if at < 0 || at >= many || l[at][0] == number {
+					continue
+				}
+				other, _ := num.Put(number)
+				data := []byte(d.Extents[0].Data)
+				copy(data[api.SectorSize+10*at:], other)
+				wrong := d
+				wrong.Extents = []api.Extent{{Name: "a", Data: string(data)}}
+				if _, e := once(wrong, api.MinBudget); e != api.ErrCode {
+					t.Fatalf("%d numbers, %d at %d: error %d", many, number, at, e)
+				}
+			}
+		}
+	}
+}
+
+// What is needed is asked for: just as much room, and a sector more.
+func TestNeeds(t *testing.T) {
+	d := with(t, 40)
+	room, _ := disk.Room(d)
+	_, _, e := stream.Do(d, api.MinBudget, func(w *stream.Work) error {
+		isFault(t, w.Needs("b", room+1), "b", 0, api.ErrFull)
+		return w.Needs("b", room)
+	})
+	if e != api.OK {
+		t.Fatalf("just as much room: error %d", e)
+	}
+}
+
 // Sectors that a frame holds are not read again, whichever file's they are, and under whatever name.
 func TestReads(t *testing.T) {
 	d := with(t, 40)
@@ -439,6 +543,42 @@ func TestLink(t *testing.T) {
 	want, _ = recs.Write(want, "x", 2, records(40))
 	if e != api.OK || !alike(got, want) || c != (api.Cost{Reads: 24, Writes: 24, Frames: 11}) {
 		t.Fatalf("error %d, a cost of %+v, %v", e, c, got)
+	}
+}
+
+// Each file is made of the one ahead, and all but the last one are no more; an error ends it.
+func TestThrough(t *testing.T) {
+	d := with(t, 40)
+	d, _ = recs.Write(d, "~100001", 2, records(1))
+	through := func(to string, fails int) (api.Disk, api.Errno, []string) {
+		names := []string{}
+		maker := func(d api.Disk, budget int, from, to string) (api.Disk, api.Cost, api.Errno) {
+			names = append(names, from, to)
+			if len(names) == 2*fails {
+				return d, api.Cost{}, api.ErrState
+			}
+			return made(from, to, 0)(d, budget)
+		}
+		got, _, e := stream.Link(d, api.MinBudget, func(c *stream.Chain) error {
+			return c.Through("a", to, maker, maker, maker)
+		})
+		return got, e, names
+	}
+	for to, spares := range map[string][]string{"b": {"~100010", "~100011"}, "~100010": {"~100020", "~100021"}, "~10001": {"~100020", "~100021"}} {
+		got, e, names := through(to, -1)
+		want, _ := recs.Write(d, to, 2, records(40))
+		if e != api.OK || !alike(got, want) || !slices.Equal(names, []string{"a", spares[0], spares[0], spares[1], spares[1], to}) {
+			t.Fatalf("to %q: error %d, %q", to, e, names)
+		}
+		for fails := 1; fails <= 3; fails++ {
+			if got, e, names := through(to, fails); e != api.ErrState || !alike(got, d) || len(names) != 2*fails {
+				t.Fatalf("to %q, the maker %d fails: error %d, %q", to, fails, e, names)
+			}
+		}
+	}
+	got, _, e := stream.Link(d, api.MinBudget, func(c *stream.Chain) error { return c.Through("a", "b") })
+	if e != api.OK || !alike(got, d) {
+		t.Fatalf("no makers: error %d", e)
 	}
 }
 
