@@ -127,16 +127,3 @@ func row(order *stream.Reader) (uint64, error) {
 	}
 	return record[0] + 1, nil
 }
-
-// strip has a new file of bytes, of a file of rows.
-func strip(d api.Disk, budget int, from, to string) (api.Disk, api.Cost, api.Errno) {
-	return stream.Do(d, budget, func(s *stream.Work) error {
-		rows, err := s.Open(from)
-		if err != nil {
-			return err
-		}
-		return s.Make(to, 0, rows.Count, func(put func(record []uint64) error) error {
-			return rows.Each(func(record []uint64) error { return put(record[1:]) })
-		})
-	})
-}

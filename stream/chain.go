@@ -83,3 +83,16 @@ func (c *Chain) Move(from, to string) error {
 	c.Disk, e = disk.Move(c.Disk, from, to)
 	return At(from, e)
 }
+
+// Strip has a new text's file of a file of pairs: of the bytes that they have behind what they were sorted by.
+func Strip(d api.Disk, budget int, from, to string) (api.Disk, api.Cost, api.Errno) {
+	return Do(d, budget, func(w *Work) error {
+		pairs, err := w.Open(from)
+		if err != nil {
+			return err
+		}
+		return w.Make(to, 0, pairs.Count, func(put func(record []uint64) error) error {
+			return pairs.Each(func(record []uint64) error { return put(record[1:]) })
+		})
+	})
+}

@@ -21,6 +21,7 @@ type Reader struct {
 	told   uint64 // how many records were
 	sector int    // the one that was read last
 	left   string // what was read, and is in no record that was told
+	skip   int    // how many bytes of the next sector are ahead of what is to be told
 }
 
 // Open has a reader stand ahead of a file's records.
@@ -48,7 +49,14 @@ func (w *Work) open(name string, isRight func(width int) bool) (*Reader, error) 
 }
 
 // Rewind has the reader stand ahead of the first record again.
-func (r *Reader) Rewind() { r.told, r.sector, r.left = 0, 0, "" }
+func (r *Reader) Rewind() { r.Seek(0) }
+
+// Seek has the reader stand ahead of the record at a place; behind all, if there is none.
+func (r *Reader) Seek(place uint64) {
+	place = min(place, r.Count)
+	at := layout.BodySize(r.Width, int(place))
+	r.told, r.sector, r.left, r.skip = place, at/api.SectorSize, "", at%api.SectorSize
+}
 
 // Each has all records that were not told yet be given to do, one by one.
 func (r *Reader) Each(do func(record []uint64) error) error {
@@ -87,7 +95,8 @@ func (r *Reader) Next() ([]uint64, error) {
 		if err != nil {
 			return nil, err
 		}
-		r.left += s
+		r.left += s[r.skip:]
+		r.skip = 0
 	}
 	record := split(r.left[:size], r.Width)
 	r.left = r.left[size:]

@@ -2,6 +2,7 @@ package stream_test
 
 import (
 	"errors"
+	"math"
 	"slices"
 	"testing"
 
@@ -173,6 +174,59 @@ func TestRewind(t *testing.T) {
 	})
 	if e != api.OK || c.Reads < 36 || c.Writes != 0 {
 		t.Fatalf("error %d, a cost of %+v", e, c)
+	}
+}
+
+// From each place on records are read as they stand there, of all widths, whatever was read ahead; behind the last one there is none.
+func TestSeek(t *testing.T) {
+	for width := range api.MaxWidth + 1 {
+		l, text := [][]uint64{}, ""
+		for i := range uint64(60) {
+			l, text = append(l, slices.Repeat([]uint64{i}, width)), text+string([]byte{byte(i), byte(i)})
+		}
+		d, _ := disk.Make(200)
+		d, e := recs.Write(d, "a", max(1, width), l)
+		open := (*stream.Work).Open
+		if width == 0 {
+			d, _ = disk.Make(200)
+			d, e = recs.WriteText(d, "a", text)
+			open = (*stream.Work).OpenText
+		}
+		if e != api.OK {
+			t.Fatalf("a disk with a file: error %d", e)
+		}
+		_, _, e = stream.Do(d, api.MinBudget, func(w *stream.Work) error {
+			r, err := open(w, "a")
+			if err != nil {
+				return err
+			}
+			for i := range 40 * r.Count {
+				place := i * 37 % r.Count
+				r.Seek(place)
+				for at := place; at < min(place+i%4, r.Count); at++ {
+					want := at
+					if width == 0 {
+						want /= 2
+					}
+					if record, err := r.Next(); err != nil || len(record) != max(1, width) || record[0] != want || record[len(record)-1] != want {
+						t.Fatalf("width %d, at %d: %v, %v", width, at, record, err)
+					}
+				}
+			}
+			for _, place := range []uint64{r.Count, r.Count + 1, math.MaxUint64} {
+				r.Seek(place)
+				if _, err := r.Next(); !errors.Is(err, api.ErrShort) {
+					t.Fatalf("width %d, behind the last one: %v", width, err)
+				}
+				if err := r.Each(func([]uint64) error { return api.ErrState }); err != nil {
+					t.Fatalf("width %d, behind the last one: %v", width, err)
+				}
+			}
+			return nil
+		})
+		if e != api.OK {
+			t.Fatalf("width %d: error %d", width, e)
+		}
 	}
 }
 
@@ -579,6 +633,27 @@ func TestThrough(t *testing.T) {
 	got, _, e := stream.Link(d, api.MinBudget, func(c *stream.Chain) error { return c.Through("a", "b") })
 	if e != api.OK || !alike(got, d) {
 		t.Fatalf("no makers: error %d", e)
+	}
+}
+
+// Of pairs the bytes behind are a text's; what is no byte is refused, and so is what is no file of records.
+func TestStrip(t *testing.T) {
+	d, _ := disk.Make(200)
+	d, _ = recs.Write(d, "a", 2, [][]uint64{{9, 'x'}, {0, 0}, {7, 255}})
+	d, _ = recs.Write(d, "b", 2, [][]uint64{{9, 'x'}, {0, 256}})
+	d, _ = recs.Write(d, "n", 2, nil)
+	d, _ = recs.WriteText(d, "t", "xyz")
+	for from, text := range map[string]string{"a": "x\x00\xff", "n": ""} {
+		got, c, e := stream.Strip(d, api.MinBudget, from, "to")
+		want, _ := recs.WriteText(d, "to", text)
+		if e != api.OK || !alike(got, want) || c.Writes != uint64(1+min(1, len(text))) {
+			t.Fatalf("Strip of %s: error %d, a cost of %+v, %v", from, e, c, got)
+		}
+	}
+	for from, want := range map[string]api.Errno{"b": api.ErrRange, "t": api.ErrCode, "none": api.ErrNone} {
+		if got, c, e := stream.Strip(d, api.MinBudget, from, "to"); e != want || !alike(got, d) || c != (api.Cost{}) {
+			t.Fatalf("Strip of %s: error %d, a cost of %+v, %v", from, e, c, got)
+		}
 	}
 }
 
