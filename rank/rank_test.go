@@ -561,6 +561,14 @@ func TestBudgets(t *testing.T) {
 	}
 }
 
+// P8: what is counted of each byte is in the memory of frames, that are of the budget.
+func TestFrames(t *testing.T) {
+	d := one(t, 100, "banana")
+	if _, c, e := leadsOp().ofText(d, api.MinBudget, "to", "a", "banana"); e != api.OK || c.Frames <= 256*4/api.SectorSize || c.Frames > api.MinBudget {
+		t.Fatalf("Leads: error %d, a cost of %+v", e, c)
+	}
+}
+
 // 17.5, P6: there and back, through files.
 func TestThereAndBack(t *testing.T) {
 	for i, text := range []string{"", "a", "aa", "ab", "ba", "banana", some(500, 2), some(1001, 1), strings.Repeat("abracadabra ", 80), some(3000, 200)} {
@@ -721,7 +729,7 @@ func onTheWay(t *testing.T, o op, d api.Disk, fuse int, to, text string) ([]stri
 // Chapter 17, words: as long as it is at work, other files have names that begin with a tilde, none of them the new one's, be that a name that they would have else; in the end they are no more. They have just as many sectors as are asked for ahead.
 func TestOnTheWay(t *testing.T) {
 	for _, o := range ops() {
-		for _, text := range []string{"", "banana", strings.Repeat("x", 70), some(130, 2)} {
+		for _, text := range []string{"", "anana", "banana", strings.Repeat("x", 70), some(130, 2)} {
 			d, seen, sectors := one(t, 2000, text), []string{}, 0
 			done := false
 			for fuse := 0; !done; fuse++ {

@@ -115,36 +115,41 @@ func (w *walk) led(next, steps uint64) []uint64 {
 	return []uint64{next, steps}
 }
 
-// further has each place be led by twice as many steps as now: by those of the place that it is led to now, too.
+// further has each place be led by twice as many steps as now.
 func (w *walk) further(to string) error {
 	w.left = 0
 	err := w.Then(func(d api.Disk, budget int) (api.Disk, api.Cost, api.Errno) {
-		return stream.Do(d, budget, func(s *stream.Work) error {
-			near, err := s.Open(w.at)
-			if err != nil {
-				return err
-			}
-			beyond, err := s.Open(w.at)
-			if err != nil {
-				return err
-			}
-			return s.Make(to, pairWidth, w.count, func(put func(record []uint64) error) error {
-				return near.Each(func(one []uint64) error {
-					beyond.Seek(one[0])
-					other, err := beyond.Next()
-					if err != nil {
-						return err
-					}
-					return put(w.led(other[0], one[1]+other[1]))
-				})
-			})
-		})
+		return w.twice(d, budget, w.at, to)
 	})
 	if err == nil {
 		err = w.Free(w.at)
 	}
 	w.at = to
 	return err
+}
+
+// twice has a new file of where each place is led to by its steps, and then by those of the place to which they lead.
+func (w *walk) twice(d api.Disk, budget int, from, to string) (api.Disk, api.Cost, api.Errno) {
+	return stream.Do(d, budget, func(s *stream.Work) error {
+		near, err := s.Open(from)
+		if err != nil {
+			return err
+		}
+		beyond, err := s.Open(from)
+		if err != nil {
+			return err
+		}
+		return s.Make(to, pairWidth, w.count, func(put func(record []uint64) error) error {
+			return near.Each(func(one []uint64) error {
+				beyond.Seek(one[0])
+				other, err := beyond.Next()
+				if err != nil {
+					return err
+				}
+				return put(w.led(other[0], one[1]+other[1]))
+			})
+		})
+	})
 }
 
 // tell has the new file be of the steps by which each place is led to the end.
